@@ -18,7 +18,7 @@ const (
 	limit                 // so many elements are too many
 )
 
-// misfit is the error of a number that may not be; the least one might be.
+// misfit is the error of a number that may not be, with the least one that may.
 type misfit struct {
 	fault
 	number, least int
